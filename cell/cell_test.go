@@ -7,6 +7,7 @@ import (
 
 	"tollbar/api"
 	"tollbar/cell"
+	"tollbar/sample"
 )
 
 const top = math.MaxUint64
@@ -22,13 +23,6 @@ func sizes() []int { return []int{1, 2, 3, 7, 64, 300, 4095, api.MaxCells} }
 // outside are numbers of cells that n cells have not; the low bits of some are those of cells that are there.
 func outside(n int) []int {
 	return []int{-1, -2, -n, -n - 1, n, n + 1, 2 * n, 4096, 4097, 8192, 1 << 16, 1 << 31, 1<<32 - 1, 1 << 32, -1 << 32, math.MaxInt, math.MaxInt - 1, math.MinInt, math.MinInt + 1}
-}
-
-// mix makes of n a number that tells nothing of n: always the same one of the same n.
-func mix(n int) uint64 {
-	x := uint64(n+1) * 0x9e3779b97f4a7c15
-	x = (x ^ x>>29) * 0xbf58476d1ce4e5b9
-	return x ^ x>>32
 }
 
 // sum is a and b modulo 2^64, by numbers without an end.
@@ -83,7 +77,7 @@ func step(t *testing.T, c *cell.Cells, p *plain, do, i int, k int) {
 		was, now = p.row[i], p.row[i]
 		p.count++
 	}
-	v := mix(k)
+	v := sample.Mix(k)
 	var got, want uint64
 	var done, must bool
 	switch do {
@@ -249,11 +243,11 @@ func TestP41NotThere(t *testing.T) {
 			if v := c.Read(i); v != 0 {
 				t.Errorf("%d cells: Read(%d) is %d", n, i, v)
 			}
-			c.Write(i, mix(k))
-			if v := c.Add(i, mix(k)); v != 0 {
+			c.Write(i, sample.Mix(k))
+			if v := c.Add(i, sample.Mix(k)); v != 0 {
 				t.Errorf("%d cells: Add(%d) is %d", n, i, v)
 			}
-			if c.Cas(i, 0, 1) || c.Cas(i, 0, 0) || c.Cas(i, mix(k), mix(k)) {
+			if c.Cas(i, 0, 1) || c.Cas(i, 0, 0) || c.Cas(i, sample.Mix(k), sample.Mix(k)) {
 				t.Errorf("%d cells: Cas(%d) is true", n, i)
 			}
 			if v := c.Peek(i); v != 0 {
@@ -326,7 +320,7 @@ func TestP42Copy(t *testing.T) {
 		c, p := made(t, n), &plain{row: make([]uint64, n)}
 		same(t, c.Copy(), p)
 		for k := range n + 3 {
-			step(t, c, p, k%4, int(mix(k)%uint64(n)), k)
+			step(t, c, p, k%4, int(sample.Mix(k)%uint64(n)), k)
 		}
 		d, q := c.Copy(), p.copied()
 		if d == c {
@@ -370,7 +364,7 @@ func TestP43LongRows(t *testing.T) {
 	for _, n := range []int{1, 2, 5, 64} {
 		c, p := made(t, n), &plain{row: make([]uint64, n)}
 		for k := range 3000 {
-			luck := mix(n*10000 + k)
+			luck := sample.Mix(n*10000 + k)
 			step(t, c, p, int(luck%4), int(luck>>8%uint64(n+2))-1, k)
 			same(t, c, p)
 		}

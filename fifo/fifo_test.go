@@ -7,15 +7,9 @@ import (
 
 	"tollbar/api"
 	"tollbar/fifo"
+	"tollbar/sample"
 	"tollbar/set"
 )
-
-// mix makes of n a number that tells nothing of n: always the same one of the same n.
-func mix(n int) uint64 {
-	x := uint64(n+1) * 0x9e3779b97f4a7c15
-	x = (x ^ x>>29) * 0xbf58476d1ce4e5b9
-	return x ^ x>>32
-}
 
 // outside are numbers that no task has, on either side; the low bits of some are those of numbers that one may have.
 func outside() []int {
@@ -33,7 +27,7 @@ func upTo(n int) (row []int) {
 // mixed are n of the numbers from 0 to 31, in an order that hangs on luck.
 func mixed(n, luck int) []int {
 	row := upTo(32)
-	slices.SortFunc(row, func(a, b int) int { return int(mix(a+100*luck)%100000) - int(mix(b+100*luck)%100000) })
+	slices.SortFunc(row, func(a, b int) int { return int(sample.Mix(a+100*luck)%100000) - int(sample.Mix(b+100*luck)%100000) })
 	return row[:n]
 }
 
@@ -508,7 +502,7 @@ func TestP82ListIsNew(t *testing.T) {
 // churn does one thing to both that hangs on luck: of few tasks and of two that may not be, more or fewer of it Pushes.
 func churn(t *testing.T, f *fifo.Fifo, p *plain, few, luck int, more uint64) {
 	t.Helper()
-	x := mix(luck)
+	x := sample.Mix(luck)
 	k := int(x>>8%uint64(few+2)) - 1
 	switch {
 	case x%8 < more:
@@ -615,7 +609,7 @@ func TestP83BehindJustAsMany(t *testing.T) {
 					t.Fatalf("of %d, %d ahead of %d: Pop %d is %d, %v", p.row, at, k, i, gone, e)
 				}
 				q.pop()
-				for _, more := range []int{gone, int(mix(at+i) % 32)} { // who went comes again behind it, and another one
+				for _, more := range []int{gone, int(sample.Mix(at+i) % 32)} { // who went comes again behind it, and another one
 					if more != k {
 						push(t, g, q, more)
 					}

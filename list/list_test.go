@@ -7,14 +7,8 @@ import (
 
 	"tollbar/api"
 	"tollbar/list"
+	"tollbar/sample"
 )
-
-// mix makes of n a number that tells nothing of n: always the same one of the same n.
-func mix(n int) uint64 {
-	x := uint64(n+1) * 0x9e3779b97f4a7c15
-	x = (x ^ x>>29) * 0xbf58476d1ce4e5b9
-	return x ^ x>>32
-}
 
 // outside are numbers that no queue may have, on either side; the low bits of some are those of numbers that may be.
 func outside() []int {
@@ -153,7 +147,7 @@ func upTo(n int) (row []int) {
 // mixed are the numbers from 0 to below n, in an order of its own.
 func mixed(n int) []int {
 	row := upTo(n)
-	slices.SortFunc(row, func(a, b int) int { return int(mix(a)%100000) - int(mix(b)%100000) })
+	slices.SortFunc(row, func(a, b int) int { return int(sample.Mix(a)%100000) - int(sample.Mix(b)%100000) })
 	return row
 }
 
@@ -503,7 +497,7 @@ func TestP72AllIsNew(t *testing.T) {
 // churn does a step to both, which hangs on k: of numbers that are few, so that many of them are there.
 func churn(t *testing.T, l *list.List, p *plain, few, k int) {
 	t.Helper()
-	luck := mix(k)
+	luck := sample.Mix(k)
 	i := int(luck >> 8 % uint64(few))
 	switch luck % 8 {
 	case 0:
@@ -627,7 +621,7 @@ func TestP73LongRows(t *testing.T) {
 	for _, few := range []int{1, 2, 5, 20, 1024} {
 		l, p := list.New(), &plain{}
 		for k := range 6000 {
-			luck := mix(few*100000 + k)
+			luck := sample.Mix(few*100000 + k)
 			i := int(luck >> 8 % uint64(few+2)) // a number more than may be, at times
 			if few == 1024 {
 				i--

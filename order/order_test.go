@@ -7,16 +7,10 @@ import (
 
 	"tollbar/api"
 	"tollbar/order"
+	"tollbar/sample"
 )
 
 const all = api.Set(math.MaxUint64) // the set of all 64
-
-// mix makes of n a number that tells nothing of n: always the same one of the same n.
-func mix(n int) uint64 {
-	x := uint64(n+1) * 0x9e3779b97f4a7c15
-	x = (x ^ x>>29) * 0xbf58476d1ce4e5b9
-	return x ^ x>>32
-}
 
 // outside are numbers that an order of n does not have, on either side; the low bits of some are those of numbers that it has.
 func outside(n int) []int {
@@ -39,7 +33,7 @@ func strange(n int) []api.Set {
 		l = append(l, 1<<k)
 	}
 	for k := range 8 {
-		l = append(l, api.Set(mix(k))<<n)
+		l = append(l, api.Set(sample.Mix(k))<<n)
 	}
 	return l
 }
@@ -272,7 +266,7 @@ func TestP91LongRows(t *testing.T) {
 	for n := 1; n <= 6; n++ {
 		o, p := made(t, n), rising(n)
 		for i := range 3000 {
-			k := int(mix(n*10000+i)%uint64(n+2)) - 1
+			k := int(sample.Mix(n*10000+i)%uint64(n+2)) - 1
 			e := o.Took(k)
 			if (e == api.OK) != (k >= 0 && k < n) || e != api.OK && e != api.ErrArg {
 				t.Fatalf("of %d: Took(%d) is %v", p, k, e)
@@ -586,7 +580,7 @@ func TestP93LongRows(t *testing.T) {
 	for n := 1; n <= 6; n++ {
 		o, passes := made(t, n), make([]int, n)
 		for i := range 5000 {
-			ready := api.Set(mix(n*10000 + i))
+			ready := api.Set(sample.Mix(n*10000 + i))
 			picked, is := o.Pick(ready)
 			if is != (ready<<(64-n) != 0) {
 				t.Fatalf("of %d: Pick(%x) is %d, %v", o.List(), uint64(ready), picked, is)

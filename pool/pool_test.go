@@ -7,18 +7,12 @@ import (
 
 	"tollbar/api"
 	"tollbar/pool"
+	"tollbar/sample"
 )
-
-// mix makes of n a number that tells nothing of n: always the same one of the same n.
-func mix(n int) uint64 {
-	x := uint64(n+1) * 0x9e3779b97f4a7c15
-	x = (x ^ x>>29) * 0xbf58476d1ce4e5b9
-	return x ^ x>>32
-}
 
 // sudog answers one whose fields are unlike those of another n.
 func sudog(n int) api.Sudog {
-	return api.Sudog{Task: n + 1, Case: -n - 2, Send: n%2 == 0, Val: int64(mix(n)), Turn: mix(n + 1000000)}
+	return api.Sudog{Task: n + 1, Case: -n - 2, Send: n%2 == 0, Val: int64(sample.Mix(n)), Turn: sample.Mix(n + 1000000)}
 }
 
 // odd are sudogs that are all zero, all but zero, or at an end of what a field can have.
@@ -228,7 +222,7 @@ func TestP61GiveAll(t *testing.T) {
 			case 1:
 				slices.Reverse(row)
 			case 2:
-				slices.SortFunc(row, func(a, b int) int { return int(mix(a)%1000) - int(mix(b)%1000) })
+				slices.SortFunc(row, func(a, b int) int { return int(sample.Mix(a)%1000) - int(sample.Mix(b)%1000) })
 			}
 			for _, i := range row {
 				give(t, p, q, i)
@@ -453,7 +447,7 @@ func TestP62Copy(t *testing.T) {
 	for _, n := range sizes() {
 		p, q := full(t, n)
 		for k := range n / 2 {
-			give(t, p, q, int(mix(k)%uint64(n)))
+			give(t, p, q, int(sample.Mix(k)%uint64(n)))
 		}
 		c, d := p.Copy(), q.copied()
 		if c == p {
@@ -499,7 +493,7 @@ func TestP62CopyOfEnds(t *testing.T) {
 // churn does a step to both, which hangs on k.
 func churn(t *testing.T, p *pool.Pool, q *plain, k int) {
 	t.Helper()
-	luck := mix(k*1000 + q.n)
+	luck := sample.Mix(k*1000 + q.n)
 	if luck%5 < 3 {
 		take(t, p, q, sudog(k))
 		return
@@ -535,7 +529,7 @@ func TestP63LongRows(t *testing.T) {
 	for _, n := range []int{1, 2, 5, 64, 1024} {
 		p, q := made(t, n), newPlain(n)
 		for k := range 6000 {
-			luck := mix(n*100000 + k)
+			luck := sample.Mix(n*100000 + k)
 			more := uint64(2 + k/1500%2*3) // 2 or 5 of 8
 			if luck%8 < more {
 				take(t, p, q, sudog(k))
@@ -557,7 +551,7 @@ func TestP63NotTwice(t *testing.T) {
 		p := made(t, n)
 		kept := map[int]api.Sudog{}
 		for k := range 5000 {
-			luck := mix(n*7 + k)
+			luck := sample.Mix(n*7 + k)
 			if i := int(luck >> 8 % uint64(n)); luck%2 == 0 {
 				_, is := kept[i]
 				if e := p.Give(i); (e == api.OK) != is {
@@ -588,7 +582,7 @@ func TestP63LastGivenFirst(t *testing.T) {
 	for _, n := range sizes() {
 		p, q := full(t, n)
 		for k := range n {
-			i := int(mix(k) % uint64(n))
+			i := int(sample.Mix(k) % uint64(n))
 			if _, is := q.has[i]; !is {
 				continue
 			}

@@ -9,6 +9,7 @@ import (
 	"tollbar/api"
 	"tollbar/ins"
 	"tollbar/prog"
+	"tollbar/sample"
 )
 
 var end = api.Ins{Op: api.OpEnd}
@@ -19,34 +20,10 @@ type fault struct {
 	e      api.Errno
 }
 
-// mix makes of n a number that tells nothing of n: always the same one of the same n.
-func mix(n int) uint64 {
-	x := uint64(n+1) * 0x9e3779b97f4a7c15
-	x = (x ^ x>>29) * 0xbf58476d1ce4e5b9
-	return x ^ x>>32
-}
-
 // far are numbers that are no register, no channel, no capacity, site, code or instruction, and not NoChan; many have the low bits of one that is.
 func far() []int {
 	return []int{-2, -3, -8, -127, -128, -255, -256, 41, 64, 128, 255, 256, 257, 1 << 16, 1<<16 + 1, 1 << 31, 1<<32 - 1, 1 << 32, 1<<32 + 1, -1 << 32, -1<<32 + 1, 1 << 62,
 		math.MaxInt, math.MaxInt - 1, math.MinInt, math.MinInt + 1}
-}
-
-// plain is a program of 3 channels, 2 sites and 4 codes, no two of a length, with each kind of instruction; each call answers new memory.
-func plain() api.Program {
-	return api.Program{
-		Caps: []int{0, 8, 3},
-		Sites: []api.Site{
-			{Cases: []api.Case{{Send: true, Ch: 2, Val: 7}, {Ch: 0, Val: 6, Ok: 5}, {Ch: api.NoChan, Val: 1}}, Default: true},
-			{Cases: []api.Case{{Ch: 2, Val: 0, Ok: 7}}},
-		},
-		Codes: [][]api.Ins{
-			{{Op: api.OpSpawn, K: 3}, {Op: api.OpSelect, B: 4, K: 1}, {Op: api.OpZero, A: 1, K: 4}, {Op: api.OpSpawn, K: 1}, end},
-			{{Op: api.OpRecv, A: 1, B: 2, Ch: 2}, {Op: api.OpSend, A: 3, Ch: api.NoChan}, {Op: api.OpClose, Ch: 1}, {Op: api.OpJump, K: 2}},
-			{{Op: api.OpSet, A: 7, K: -5}, {Op: api.OpAdd, A: 1, B: 2}, end},
-			{{Op: api.OpJump, K: 0}, end},
-		},
-	}
 }
 
 // clone is another program, of other memory, made without the package.
@@ -122,9 +99,9 @@ func judged(p api.Program) fault {
 	})
 }
 
-// with answers plain behind do.
+// with answers sample.Plain behind do.
 func with(do func(p *api.Program)) api.Program {
-	p := plain()
+	p := sample.Plain()
 	do(&p)
 	return p
 }
@@ -138,26 +115,12 @@ func code(n int) []api.Ins { return append(row(n-1, api.Ins{Op: api.OpSet}), end
 // site is one of n cases.
 func site(n int) api.Site { return api.Site{Cases: row(n, api.Case{Ch: api.NoChan})} }
 
-// full is a program at each limit.
-func full() (p api.Program) {
-	p.Caps = []int{8, 8, 8, 8, 8, 8}
-	for range 12 {
-		p.Sites = append(p.Sites, api.Site{Cases: row(6, api.Case{Ch: 5, Val: 7, Ok: 7}), Default: true})
-	}
-	for range 8 {
-		c := row(39, api.Ins{Op: api.OpRecv, A: 7, B: 7, Ch: 5})
-		c[0], c[1], c[2] = api.Ins{Op: api.OpSelect, B: 7, K: 11}, api.Ins{Op: api.OpSpawn, K: 7}, api.Ins{Op: api.OpZero, A: 7, K: 39}
-		p.Codes = append(p.Codes, append(c, api.Ins{Op: api.OpJump, K: 39}))
-	}
-	return p
-}
-
 // made is a program that n alone tells, of few things, of which some may not be.
 func made(n int) (p api.Program) {
-	h, step := mix(n), 0
+	h, step := sample.Mix(n), 0
 	next := func(below int) int {
 		step++
-		return int(mix(int(h>>8)+step) % uint64(below))
+		return int(sample.Mix(int(h>>8)+step) % uint64(below))
 	}
 	few := func(odd, usual, most int) int { // now and then beyond a limit
 		if next(odd) == 0 {
@@ -229,7 +192,7 @@ func some(n, chans, sites, codes int, next func(int) int, slip func(int) int) (c
 
 // good goes over programs that may be.
 func good(yield func(p api.Program) bool) {
-	if !yield(plain()) || !yield(full()) || !yield(api.Program{Codes: [][]api.Ins{{end}}}) {
+	if !yield(sample.Plain()) || !yield(sample.Full()) || !yield(api.Program{Codes: [][]api.Ins{{end}}}) {
 		return
 	}
 	for n := range 5000 {
@@ -246,8 +209,8 @@ func TestP111Example(t *testing.T) {
 	checked(t, one(api.Ins{Op: api.OpSet}), fault{0, 0, api.ErrFall})
 	checked(t, one(), fault{0, 0, api.ErrCode})
 	checked(t, one(api.Ins{Op: api.OpSend}, end), fault{0, 0, api.ErrCode})
-	checked(t, plain(), fault{})
-	checked(t, full(), fault{})
+	checked(t, sample.Plain(), fault{})
+	checked(t, sample.Full(), fault{})
 }
 
 func TestP111Channels(t *testing.T) {
@@ -376,12 +339,12 @@ func TestP111Instructions(t *testing.T) {
 	} {
 		want := fault{}
 		for k := range 4 {
-			p := plain()
+			p := sample.Plain()
 			for pc := range p.Codes[k] {
 				if pc == len(p.Codes[k])-1 {
 					continue
 				}
-				p := plain()
+				p := sample.Plain()
 				if p.Codes[k][pc] = c.x; !c.may {
 					want = fault{k, pc, api.ErrCode}
 				}
@@ -438,7 +401,7 @@ func TestP111Falls(t *testing.T) {
 	for op := uint8(1); op <= 10; op++ {
 		for k := range 4 {
 			for n := 1; n <= 40; n++ {
-				p := plain()
+				p := sample.Plain()
 				p.Codes[k] = append(code(n)[:n-1], api.Ins{Op: op})
 				want := fault{k, 0, api.ErrFall}
 				if op == api.OpEnd || op == api.OpJump {
@@ -537,9 +500,9 @@ func TestP111Nothing(t *testing.T) {
 	checked(t, api.Program{Caps: []int{}, Sites: []api.Site{}, Codes: [][]api.Ins{{end}}}, fault{})
 }
 
-// variants are programs no two of which are the same: each differs from plain in one thing alone.
+// variants are programs no two of which are the same: each differs from sample.Plain in one thing alone.
 func variants() []api.Program {
-	l := []api.Program{plain(), {}, {Codes: [][]api.Ins{nil}}, {Codes: [][]api.Ins{nil, nil}}, {Sites: []api.Site{{}}}, {Sites: []api.Site{{}, {}}}, {Sites: []api.Site{{Default: true}}},
+	l := []api.Program{sample.Plain(), {}, {Codes: [][]api.Ins{nil}}, {Codes: [][]api.Ins{nil, nil}}, {Sites: []api.Site{{}}}, {Sites: []api.Site{{}, {}}}, {Sites: []api.Site{{Default: true}}},
 		{Caps: []int{0}}, {Caps: []int{0, 0}}, {Codes: [][]api.Ins{{{}}}}, {Codes: [][]api.Ins{{{}, {}}}}, {Codes: [][]api.Ins{{{}}, nil}}, {Codes: [][]api.Ins{nil, {{}}}}, {Sites: []api.Site{{Cases: []api.Case{{}}}}}}
 	add := func(do func(p *api.Program)) { l = append(l, with(do)) }
 	add(func(p *api.Program) { p.Caps = nil })
@@ -553,17 +516,17 @@ func variants() []api.Program {
 		p.Sites[0].Cases, p.Sites[1].Cases = p.Sites[0].Cases[:2], append(p.Sites[0].Cases[2:], p.Sites[1].Cases...)
 	})
 	for _, v := range []int{1, -1, 1 << 8, 1 << 16, 1 << 32, math.MinInt} { // that much more, of each number alone
-		for k := range plain().Caps {
+		for k := range sample.Plain().Caps {
 			add(func(p *api.Program) { p.Caps[k] += v })
 		}
-		for k, s := range plain().Sites {
+		for k, s := range sample.Plain().Sites {
 			for i := range s.Cases {
 				add(func(p *api.Program) { p.Sites[k].Cases[i].Ch += v })
 				add(func(p *api.Program) { p.Sites[k].Cases[i].Val += v })
 				add(func(p *api.Program) { p.Sites[k].Cases[i].Ok += v })
 			}
 		}
-		for k, c := range plain().Codes {
+		for k, c := range sample.Plain().Codes {
 			for pc := range c {
 				add(func(p *api.Program) { p.Codes[k][pc].A += v })
 				add(func(p *api.Program) { p.Codes[k][pc].B += v })
@@ -572,7 +535,7 @@ func variants() []api.Program {
 			}
 		}
 	}
-	for k, s := range plain().Sites {
+	for k, s := range sample.Plain().Sites {
 		add(func(p *api.Program) { p.Sites[k].Default = !p.Sites[k].Default })
 		add(func(p *api.Program) { p.Sites = slices.Delete(p.Sites, k, k+1) })
 		add(func(p *api.Program) { p.Sites = slices.Insert(p.Sites, k, api.Site{}) })
@@ -583,7 +546,7 @@ func variants() []api.Program {
 		}
 		add(func(p *api.Program) { p.Sites[k].Cases = append(p.Sites[k].Cases, api.Case{}) })
 	}
-	for k, c := range plain().Codes {
+	for k, c := range sample.Plain().Codes {
 		add(func(p *api.Program) { p.Codes = slices.Delete(p.Codes, k, k+1) })
 		add(func(p *api.Program) { p.Codes = slices.Insert(p.Codes, k, nil) })
 		for pc := range c {
@@ -593,7 +556,7 @@ func variants() []api.Program {
 		}
 		add(func(p *api.Program) { p.Codes[k] = append(p.Codes[k], api.Ins{}) })
 	}
-	for k := range plain().Caps {
+	for k := range sample.Plain().Caps {
 		add(func(p *api.Program) { p.Caps = slices.Delete(p.Caps, k, k+1) })
 		add(func(p *api.Program) { p.Caps = slices.Insert(p.Caps, k, 7) })
 	}
@@ -629,8 +592,8 @@ func TestP112Same(t *testing.T) {
 			t.Fatalf("Same has changed %+v to %+v", a, l[k])
 		}
 	}
-	held(t, full(), full(), true)
-	held(t, full(), plain(), false)
+	held(t, sample.Full(), sample.Full(), true)
+	held(t, sample.Full(), sample.Plain(), false)
 }
 
 // TestP112SameOfNone: a row that is nil, and one without elements, on each level; a row of one row without elements is another one.
@@ -711,13 +674,13 @@ func TestP112Copy(t *testing.T) {
 	for n := range 2000 {
 		copied(t, made(n))
 	}
-	copied(t, full())
+	copied(t, sample.Full())
 	copied(t, api.Program{Caps: []int{}, Codes: [][]api.Ins{nil, {}}, Sites: []api.Site{{}, {Cases: []api.Case{}}}})
 }
 
 // TestP112CopyShared: what shares memory, or has room to spare, is copied to what does not share.
 func TestP112CopyShared(t *testing.T) {
-	p := plain()
+	p := sample.Plain()
 	p.Codes[1], p.Codes[2] = p.Codes[0], p.Codes[0][:2]
 	p.Sites[1].Cases = p.Sites[0].Cases
 	p.Caps = p.Caps[:1]
@@ -752,16 +715,16 @@ func TestP112CopyWritten(t *testing.T) {
 		func(p *api.Program) { p.Codes[2] = append(p.Codes[2], end) },
 		func(p *api.Program) { p.Codes = append(p.Codes, nil) },
 	} {
-		p := plain()
+		p := sample.Plain()
 		c := prog.Copy(p)
 		do(&p)
-		if !alike(c, plain()) || alike(p, plain()) {
+		if !alike(c, sample.Plain()) || alike(p, sample.Plain()) {
 			t.Errorf("%d: %+v", k, c)
 		}
-		p = plain()
+		p = sample.Plain()
 		c = prog.Copy(p)
 		do(&c)
-		if !alike(p, plain()) || alike(c, plain()) {
+		if !alike(p, sample.Plain()) || alike(c, sample.Plain()) {
 			t.Errorf("%d: %+v", k, p)
 		}
 	}
@@ -776,7 +739,7 @@ func found(t *testing.T, p api.Program, code, pc int, want api.Ins, is bool) {
 }
 
 func TestP112At(t *testing.T) {
-	programs := append(variants(), full(), api.Program{Codes: [][]api.Ins{{}, {end}, nil, {{Op: 99, A: -5, K: 3}, {}}}}, api.Program{Codes: row(20, code(50))})
+	programs := append(variants(), sample.Full(), api.Program{Codes: [][]api.Ins{{}, {end}, nil, {{Op: 99, A: -5, K: 3}, {}}}}, api.Program{Codes: row(20, code(50))})
 	for _, p := range programs {
 		for k := -3; k <= len(p.Codes)+3; k++ {
 			for pc := -3; pc <= 53; pc++ {
@@ -795,11 +758,11 @@ func TestP112At(t *testing.T) {
 			}
 		}
 	}
-	found(t, plain(), 0, 0, api.Ins{Op: api.OpSpawn, K: 3}, true)
-	found(t, plain(), 0, 4, end, true)
-	found(t, plain(), 3, 1, end, true)
-	found(t, plain(), 3, 2, api.Ins{}, false)
-	p := plain()
+	found(t, sample.Plain(), 0, 0, api.Ins{Op: api.OpSpawn, K: 3}, true)
+	found(t, sample.Plain(), 0, 4, end, true)
+	found(t, sample.Plain(), 3, 1, end, true)
+	found(t, sample.Plain(), 3, 2, api.Ins{}, false)
+	p := sample.Plain()
 	p.Codes[3] = p.Codes[3][:1] // what stands behind a code's end is none of it
 	found(t, p, 3, 1, api.Ins{}, false)
 	p.Codes = p.Codes[:3]
@@ -833,14 +796,14 @@ func uses(p api.Program) map[int]int {
 
 func TestP112Uses(t *testing.T) {
 	for ch, n := range map[int]int{0: 1, 1: 1, 2: 3, api.NoChan: 2, 3: 0, -2: 0, 6: 0} {
-		used(t, plain(), ch, n)
+		used(t, sample.Plain(), ch, n)
 	}
-	for ch, n := range map[int]int{0: 0, 4: 0, 5: 12*6 + 8*36, api.NoChan: 0, 6: 0} {
-		used(t, full(), ch, n)
+	for ch, n := range map[int]int{0: 0, 4: 0, 5: 12*6 + 8*35, api.NoChan: 0, 6: 0} {
+		used(t, sample.Full(), ch, n)
 	}
 	for _, v := range far() {
-		used(t, plain(), v, 0)
-		used(t, full(), v, 0)
+		used(t, sample.Plain(), v, 0)
+		used(t, sample.Full(), v, 0)
 		used(t, api.Program{}, v, 0)
 	}
 	for op := range 256 { // what does not name a channel has a 0 there, that is not the channel 0
@@ -984,7 +947,7 @@ func TestP113Greater(t *testing.T) {
 			}
 		}
 	}
-	p := full()
+	p := sample.Full()
 	p.Codes = append(p.Codes, code(1))
 	checked(t, p, fault{0, 0, api.ErrCode})
 	p.Sites = append(p.Sites, site(1))
@@ -999,7 +962,7 @@ func TestP113GreaterToTheMost(t *testing.T) {
 		p := api.Program{Codes: [][]api.Ins{{end}}}
 		steps := 0
 		for l := grown(p); len(l) > 0; l = grown(p) {
-			p = l[mix(order*100+steps)%uint64(len(l))]
+			p = l[sample.Mix(order*100+steps)%uint64(len(l))]
 			steps++
 			checked(t, p, fault{})
 		}
@@ -1011,7 +974,7 @@ func TestP113GreaterToTheMost(t *testing.T) {
 
 // TestSameAgain: what was asked ahead changes no answer (R6).
 func TestSameAgain(t *testing.T) {
-	p, broken := plain(), with(func(p *api.Program) { p.Codes[1][2].Ch = 3 })
+	p, broken := sample.Plain(), with(func(p *api.Program) { p.Codes[1][2].Ch = 3 })
 	for range 50 {
 		checked(t, p, fault{})
 		checked(t, broken, fault{1, 2, api.ErrCode})
@@ -1019,6 +982,6 @@ func TestSameAgain(t *testing.T) {
 		held(t, p, broken, false)
 		used(t, p, 2, 3)
 		found(t, p, 3, 1, end, true)
-		held(t, copied(t, p), plain(), true)
+		held(t, copied(t, p), sample.Plain(), true)
 	}
 }

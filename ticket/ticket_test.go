@@ -6,15 +6,9 @@ import (
 
 	"tollbar/api"
 	"tollbar/cell"
+	"tollbar/sample"
 	"tollbar/ticket"
 )
-
-// mix makes of n a number that tells nothing of n: always the same one of the same n.
-func mix(n int) uint64 {
-	x := uint64(n+1) * 0x9e3779b97f4a7c15
-	x = (x ^ x>>29) * 0xbf58476d1ce4e5b9
-	return x ^ x>>32
-}
 
 // fresh answers so many cells.
 func fresh(t *testing.T, n int) *cell.Cells {
@@ -161,7 +155,7 @@ func TestP51WhichCells(t *testing.T) {
 		c := fresh(t, x[0])
 		l := made(t, c, x[1], x[2])
 		for i := range x[0] {
-			c.Write(i, mix(i))
+			c.Write(i, sample.Mix(i))
 		}
 		want, count := row(c), c.Count()
 		for k := range x[2] {
@@ -273,7 +267,7 @@ func TestP51NotThere(t *testing.T) {
 		c := fresh(t, x[0])
 		l := made(t, c, x[1], x[2])
 		for i := range x[0] {
-			c.Write(i, mix(i)|1)
+			c.Write(i, sample.Mix(i)|1)
 		}
 		want, count := row(c), c.Count()
 		for _, k := range outside(x[2]) {
@@ -525,7 +519,7 @@ func TestP53LongRows(t *testing.T) {
 			c.Write(3+2*k+1, from+uint64(k)<<32)
 		}
 		for n := range 20000 {
-			luck := mix(n*64 + many)
+			luck := sample.Mix(n*64 + many)
 			k := int(luck % 4)
 			locks[k].step(t, l, k, int(luck>>8%uint64(many)))
 		}
