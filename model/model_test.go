@@ -10,7 +10,6 @@ import (
 
 	"tollbar/api"
 	"tollbar/entry"
-	"tollbar/ins"
 	"tollbar/model"
 	"tollbar/prog"
 	"tollbar/sample"
@@ -18,36 +17,13 @@ import (
 
 type registers = [api.Regs]int64
 
-// code are the instructions whose lines, parted by commas, these are.
-func code(lines string) (l []api.Ins) {
-	for _, line := range strings.Split(lines, ", ") {
-		x, e := ins.Read(line)
-		if e != api.OK {
-			panic(line)
-		}
-		l = append(l, x)
-	}
-	return l
-}
-
-// program is one of these capacities, sites and codes.
-func program(caps []int, sites []api.Site, codes ...string) api.Program {
-	p := api.Program{Caps: caps, Sites: sites}
-	for _, c := range codes {
-		p.Codes = append(p.Codes, code(c))
-	}
-	return p
-}
-
-// site is one of these cases, without a default.
-func site(l ...api.Case) api.Site { return api.Site{Cases: l} }
-
-// or is s with a default.
-func or(s api.Site) api.Site { return api.Site{Cases: s.Cases, Default: true} }
-
-// sends and receives are cases.
-func sends(ch, val int) api.Case        { return api.Case{Send: true, Ch: ch, Val: val} }
-func receives(ch, val, ok int) api.Case { return api.Case{Ch: ch, Val: val, Ok: ok} }
+// What programs, and wrong entries, are made of.
+var (
+	program, crowd, broken = sample.Program, sample.Crowd, sample.Broken
+	site, or               = sample.Site, sample.Or
+	sends, receives        = sample.Sends, sample.Receives
+	aside                  = sample.Aside
+)
 
 // both is a model that is held against a plain one.
 type both struct {
@@ -169,37 +145,6 @@ func refused(t *testing.T, p api.Program, most int) {
 	t.Helper()
 	if m, e := model.New(p, most); m != nil || e != api.ErrArg {
 		t.Errorf("New(%+v, %d) is %v, %v", p, most, m, e)
-	}
-}
-
-// broken are programs that may not be.
-func broken() []api.Program {
-	end := "end"
-	return []api.Program{
-		{},
-		{Caps: []int{0}},
-		program([]int{9}, nil, end),
-		program([]int{-1}, nil, end),
-		program(slices.Repeat([]int{0}, 7), nil, end),
-		program(nil, []api.Site{{}}, end),
-		program(nil, []api.Site{{Default: true}}, end),
-		program(nil, []api.Site{site(receives(0, 0, 0))}, end),
-		program([]int{1}, []api.Site{site(receives(-2, 0, 0))}, end),
-		program([]int{1}, []api.Site{site(receives(0, 8, 0))}, end),
-		program([]int{1}, []api.Site{site(api.Case{Send: true, Ok: 1})}, end),
-		program(nil, slices.Repeat([]api.Site{site(receives(-1, 0, 0))}, 13), end),
-		{Codes: [][]api.Ins{{}}},
-		{Codes: [][]api.Ins{code("end"), nil}},
-		{Codes: [][]api.Ins{{{Op: 11}}}},
-		{Codes: slices.Repeat([][]api.Ins{code("end")}, 9)},
-		program(nil, nil, "send 0 0, end"),
-		program([]int{1}, nil, "recv 8 0 0, end"),
-		program(nil, nil, "close -2, end"),
-		program(nil, nil, "select 0 0, end"),
-		program(nil, nil, "spawn 1, end"),
-		program(nil, nil, "jump 1"),
-		program(nil, nil, "set 0 0"),
-		program(nil, nil, end, "send 0 -1"),
 	}
 }
 
@@ -758,40 +703,6 @@ func TestP171Refused(t *testing.T) {
 	}
 }
 
-// aside are entries that differ from x in one field.
-func aside(x api.Entry) (l []api.Entry) {
-	for k := range 32 {
-		y := x
-		y.Kind = uint8(k)
-		l = append(l, y)
-	}
-	for _, d := range []int{1, -1, 2, 6, 31, -32, 256, 1 << 32, -1 << 32} {
-		add := func(do func(y *api.Entry)) {
-			y := x
-			do(&y)
-			l = append(l, y)
-		}
-		add(func(y *api.Entry) { y.At += int64(d) })
-		add(func(y *api.Entry) { y.Worker += d })
-		add(func(y *api.Entry) { y.Task += d })
-		add(func(y *api.Entry) { y.Peer += d })
-		add(func(y *api.Entry) { y.Ch += d })
-		add(func(y *api.Entry) { y.Case += d })
-		add(func(y *api.Entry) { y.PeerCase += d })
-		add(func(y *api.Entry) { y.Val += int64(d) })
-		add(func(y *api.Entry) { y.Val2 += int64(d) })
-		add(func(y *api.Entry) { y.Ok = !y.Ok })
-		add(func(y *api.Entry) { y.Code += api.Errno(d) })
-		add(func(y *api.Entry) { y.Set += api.Set(d) })
-	}
-	for _, v := range []int{0, -1, 7} { // what is not named, and NoTask, and Plain
-		y := x
-		y.Peer, y.Case, y.PeerCase = v, v, v
-		l = append(l, y)
-	}
-	return l
-}
-
 // tried fails, unless each of these is answered as it must be; what is refused changes nothing.
 func (b both) tried(l []api.Entry) {
 	b.t.Helper()
@@ -946,63 +857,6 @@ func TestP174NothingElse(t *testing.T) {
 			}
 		}
 	}
-}
-
-// crowd is a program of few channels at which many of its tasks meet, that n alone tells.
-func crowd(n int) (p api.Program) {
-	step := n << 12
-	below := func(most int) int {
-		step++
-		return int(sample.Mix(step) % uint64(most))
-	}
-	for range 1 + below(3) {
-		p.Caps = append(p.Caps, below(2)*(1+below(3)*below(2)))
-	}
-	channel := func() int {
-		if below(12) == 0 {
-			return -1
-		}
-		return below(len(p.Caps))
-	}
-	for range 3 {
-		s := api.Site{Default: below(5) == 0}
-		for range 1 + below(4) {
-			s.Cases = append(s.Cases, []api.Case{sends(channel(), below(8)), receives(channel(), below(8), below(8))}[below(2)])
-		}
-		p.Sites = append(p.Sites, s)
-	}
-	some := func() api.Ins {
-		switch below(16) {
-		case 0:
-			return api.Ins{Op: api.OpClose, Ch: channel()}
-		case 1:
-			return api.Ins{Op: api.OpSpawn, K: int64(below(4))}
-		case 2:
-			return api.Ins{Op: api.OpSet, A: below(8), K: int64(below(100))}
-		case 3:
-			return api.Ins{Op: api.OpAdd, A: below(8), B: below(8)}
-		case 4, 5, 6, 7:
-			return api.Ins{Op: api.OpSend, A: below(8), Ch: channel()}
-		case 8, 9, 10, 11:
-			return api.Ins{Op: api.OpRecv, A: below(8), B: below(8), Ch: channel()}
-		}
-		return api.Ins{Op: api.OpSelect, B: below(8), K: int64(below(3))}
-	}
-	for k := range 4 {
-		var c []api.Ins
-		for range 3 * (1 - min(k, 1)) {
-			c = append(c, api.Ins{Op: api.OpSpawn, K: int64(1 + below(3))})
-		}
-		for r := range 2 {
-			c = append(c, api.Ins{Op: api.OpSet, A: r + below(7), K: int64(10*k + r)})
-		}
-		for range 1 + below(6) {
-			c = append(c, some())
-		}
-		last := []api.Ins{{Op: api.OpEnd}, {Op: api.OpJump, K: int64(len(c) / 2)}}[below(2)]
-		p.Codes = append(p.Codes, append(c, last))
-	}
-	return p
 }
 
 // endless is whether a task runs that has no stand.
